@@ -44,7 +44,42 @@ func invalid() []invalidBook {
 		{bookOf(2, row(low, 0)), api.ErrRange},
 		{bookOf(2, row(0, high)), api.ErrRange},
 		{bookOf(2, r, r, row(1, 5)), api.ErrRange},
-		{bookOf(2, r, row(5, 1), row(1)), api.ErrRange}, // the first one that is not valid decides
+		// ErrEqual comes first, whichever of the Rows has which error
+		{bookOf(2, row(5, 0), row(1)), api.ErrEqual},
+		{bookOf(2, row(1), row(5, 0)), api.ErrEqual},
+		{bookOf(2, row(low, 0), nil), api.ErrEqual},
+		{bookOf(2, row(0, high), row(1, 1, 1)), api.ErrEqual},
+		{bookOf(2, r, row(5, 1), row(1)), api.ErrEqual},
+		{bookOf(2, row(5, 1), r, r, r, r, r, r, row(9)), api.ErrEqual},
+		// but not before ErrMany and ErrArg
+		{bookOf(2, append(slices.Repeat([][]int64{{5, 0}}, 8), row(1))...), api.ErrMany},
+		{bookOf(6, row(5, 0), row(1)), api.ErrArg},
+	}
+}
+
+// All books of up to three Rows of some kinds: one that has a wrong number of numbers decides, wherever it is, before one that is out of range.
+func TestP3_1EqualBeforeRange(t *testing.T) {
+	kinds := [][]int64{{1, -1}, {4, -4}, {5, 0}, {0, low}, {1}, {9}, {1, 1, 1}, nil}
+	books := 1
+	for many := range 4 {
+		for n := range books {
+			b, want := bookOf(2), api.OK
+			for range many {
+				x := kinds[n%len(kinds)]
+				n /= len(kinds)
+				b = with(b, x)
+				switch {
+				case len(x) != 2:
+					want = api.ErrEqual
+				case want == api.OK && !isWithin(api.MaxSecretTimes, x...):
+					want = api.ErrRange
+				}
+			}
+			if e := secret.CheckBook(b); e != want {
+				t.Error(b, e, "not", want)
+			}
+		}
+		books *= len(kinds)
 	}
 }
 
